@@ -43,6 +43,16 @@ func (a *atom) key() api.Row {
 	return out
 }
 
+// isKnown: is a row what is known?
+func (a *atom) isKnown(row api.Row) bool {
+	for _, p := range a.known {
+		if p.sym != row[p.column] {
+			return false
+		}
+	}
+	return true
+}
+
 // take gives the variables what they are in a row; false: one would be two values.
 func (a *atom) take(row api.Row) bool {
 	for _, p := range a.given {

@@ -74,10 +74,32 @@ type look struct {
 }
 
 func (s *look) run() {
+	if s.isShort() {
+		s.runAll()
+		return
+	}
 	numbers, _ := s.Look(s.mask, s.key())
 	i, _ := slices.BinarySearch(numbers, s.from)
 	for ; i < len(numbers) && numbers[i] < s.to; i++ {
 		if row, _ := s.At(numbers[i]); s.take(row) {
+			s.next.run()
+		}
+	}
+}
+
+// isShort: has the span fewer facts than are, in all, what is known?
+func (s *look) isShort() bool {
+	if s.isWhole() {
+		return false
+	}
+	n, _ := s.Count(s.mask, s.key())
+	return s.to-s.from < n
+}
+
+// runAll asks each fact of the span whether it is what is known.
+func (s *look) runAll() {
+	for _, row := range s.Range(s.from, s.to) {
+		if s.isKnown(row) && s.take(row) {
 			s.next.run()
 		}
 	}
