@@ -416,3 +416,33 @@ func TestWide(t *testing.T) {
 		t.Errorf("%v, %d tables", answers, len(tables))
 	}
 }
+
+// P22.2: unlike values are unlike wherever they stand, also where they look the same behind one another.
+func TestUnlikeValues(t *testing.T) {
+	all := []api.Value{num(1), num(11), num(-1), num(0), num(-1 << 63), num(1<<63 - 1)}
+	for _, s := range []string{"", "1", "11", "n1", "t", "tt", "at", "a", "tb", "b", "\x01", "\x01a", "t\x01a", "\x00", "n", "-1", strings.Repeat("a", 199), strings.Repeat("a", 200)} {
+		all = append(all, text(s))
+	}
+	var l []api.Fact
+	for _, a := range all {
+		for _, b := range all {
+			l = append(l, api.Fact{Pred: "e", Args: []api.Value{a, b}})
+		}
+	}
+	rules := rulesOf(t, "p(X, Y) :- e(X, Y). r(X) :- e(X, _), p(X, _), not e(X, X). s(X, Y) :- e(X, Y), p(X, Y).")
+	if answers, tables := mustSolve(t, rules, l, atom("p", v("X"), v("Y"))); len(answers) != len(l) || len(tables) != 1 {
+		t.Errorf("%d answers, %d tables", len(answers), len(tables))
+	}
+	if answers, tables := mustSolve(t, rules, l, atom("s", v("X"), v("Y"))); len(answers) != len(l) || len(tables) != len(l)+1 {
+		t.Errorf("%d answers, %d tables", len(answers), len(tables))
+	}
+	if answers, tables := mustSolve(t, rules, l, atom("r", v("X"))); len(answers) != 0 || len(tables) != 1 {
+		t.Errorf("%d answers, %d tables", len(answers), len(tables))
+	}
+	for _, a := range all {
+		q := atom("s", api.Term{Val: a}, v("Y"))
+		if answers, tables := mustSolve(t, rules, l, q); len(answers) != len(all) || len(tables) != len(all)+1 || answers[0][0] != a {
+			t.Errorf("of %v: %d answers, %d tables", a, len(answers), len(tables))
+		}
+	}
+}
