@@ -3,6 +3,7 @@ package par_test
 import (
 	"math"
 	"runtime"
+	"strings"
 	"sync"
 	"sync/atomic"
 	"testing"
@@ -205,12 +206,48 @@ func TestNowWhileRunning(t *testing.T) {
 			}
 			ended <- err
 		}()
+		waitForWorkers(t, n)
 		time.Sleep(50 * time.Millisecond)
 		s.Now()
 		if err := <-ended; err != api.ErrStopped {
 			t.Errorf("by %d: %d", n, err)
 		}
 		wantEnded(t, before)
+	}
+}
+
+// waitForWorkers waits till all are seen at work. (If they never were, it would mean nothing that none is behind a call.)
+func waitForWorkers(t *testing.T, n int) {
+	t.Helper()
+	for range 5000 {
+		if labouring() == n {
+			return
+		}
+		time.Sleep(time.Millisecond)
+	}
+	t.Errorf("%d of %d are seen at work", labouring(), n)
+}
+
+// labouring is how many goroutines are at work as workers.
+func labouring() int {
+	room := make([]byte, 1<<20)
+	return strings.Count(string(room[:runtime.Stack(room, true)]), "pedigree/par.labour(")
+}
+
+// P26.1: when a call answers, none labours any more, not even for a moment.
+func TestNoneLaboursOn(t *testing.T) {
+	rules, facts := rulesOf(t, ancestors), factsOf(t, parents)
+	for range 20 {
+		for _, rounds := range []int{-1, 0, 2} {
+			par.Run(rules, facts, 16, par.NewStop(rounds))
+			if n := labouring(); n != 0 {
+				t.Fatalf("behind Run by a stop of %d rounds %d are at work", rounds, n)
+			}
+			par.Model(api.Program{Rules: rules}, facts, 16, par.NewStop(rounds))
+			if n := labouring(); n != 0 {
+				t.Fatalf("behind Model by a stop of %d rounds %d are at work", rounds, n)
+			}
+		}
 	}
 }
 
